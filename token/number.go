@@ -1,4 +1,4 @@
-package lex
+package token
 
 import (
 	"strings"
@@ -27,10 +27,15 @@ func sign(s string, signs string) int {
 	return 0
 }
 
+// digit: is a byte one of 0 to 9?
+func digit(c byte) bool {
+	return '0' <= c && c <= '9'
+}
+
 // digits counts the digits ahead.
 func digits(s string) int {
 	n := 0
-	for n < len(s) && '0' <= s[n] && s[n] <= '9' {
+	for n < len(s) && digit(s[n]) {
 		n++
 	}
 	return n
