@@ -1,4 +1,5 @@
-// Package token reads one token of JSON with remarks: what tells all of a text's and what tells them again share it.
+// Package token reads one token of JSON with remarks, for what tells all of a text's and what tells them again, and says
+// which of them say nothing, for what is made of the others.
 package token
 
 import (
@@ -26,6 +27,11 @@ func First(s string) (int, int) {
 		return kind, run(s, kind)
 	}
 	return kind, 1
+}
+
+// Skipped: does a token say nothing, a blank or a remark? Neither trees nor the language are made of such.
+func Skipped(t api.Token) bool {
+	return t.Kind == api.TokBlank || t.Kind == api.TokRemark
 }
 
 // run counts how many bytes ahead may begin tokens of a kind.

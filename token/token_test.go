@@ -65,6 +65,15 @@ func TestBegun(t *testing.T) {
 	}
 }
 
+func TestSkipped(t *testing.T) {
+	for kind := api.TokOpen; kind <= api.TokBad; kind++ {
+		want := kind == api.TokBlank || kind == api.TokRemark
+		if got := token.Skipped(api.Token{Kind: kind, From: 1, To: 2}); got != want {
+			t.Errorf("kind %d: %v", kind, got)
+		}
+	}
+}
+
 // What stands farther behind a token than its reading sees may be anything; and nearer it may not.
 func TestSight(t *testing.T) {
 	near := false
